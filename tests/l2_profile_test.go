@@ -556,29 +556,38 @@ func whole(p impl.Profile) impl.Profile {
 	return p
 }
 
-func TestProfileIsNotWritten(t *testing.T) {
-	profiles := smallProfiles()
+// alsoSpoilt adds to the profiles one for each fault.
+func alsoSpoilt(profiles []impl.Profile) []impl.Profile {
 	for _, f := range profileFaults() {
 		p := threePieces()
 		f.spoil(&p)
 		profiles = append(profiles, p)
 	}
-	answers := func(p impl.Profile) []int {
-		out := []int{impl.ProfileOk(p)}
-		for _, x := range []int{0, 1, 50, 100, 200, -1} {
-			out = append(out, impl.BrakeAt(p, x), impl.LimitAt(p, x), impl.StandAt(p, x, 45))
-		}
-		return out
+	return profiles
+}
+
+// checkUnwritten asks twice: the answers have to be the same, and the profile as it was.
+func checkUnwritten(t *testing.T, p impl.Profile, answers func(p impl.Profile) []any) {
+	t.Helper()
+	given := withSpare(p)
+	before := whole(given)
+	first := answers(given)
+	if again := answers(given); !reflect.DeepEqual(first, again) {
+		t.Errorf("%v: %v, then %v", p, first, again)
 	}
-	for _, p := range profiles {
-		given := withSpare(p)
-		before := whole(given)
-		first := answers(given)
-		if again := answers(given); !slices.Equal(first, again) {
-			t.Errorf("%v: %v, then %v", p, first, again)
-		}
-		if after := whole(given); !reflect.DeepEqual(before, after) {
-			t.Errorf("%v became %v", before, after)
-		}
+	if after := whole(given); !reflect.DeepEqual(before, after) {
+		t.Errorf("%v became %v", before, after)
+	}
+}
+
+func TestProfileIsNotWritten(t *testing.T) {
+	for _, p := range alsoSpoilt(smallProfiles()) {
+		checkUnwritten(t, p, func(p impl.Profile) []any {
+			out := []any{impl.ProfileOk(p)}
+			for _, x := range []int{0, 1, 50, 100, 200, -1} {
+				out = append(out, impl.BrakeAt(p, x), impl.LimitAt(p, x), impl.StandAt(p, x, 45))
+			}
+			return out
+		})
 	}
 }

@@ -866,27 +866,11 @@ func TestWatchSpeedsAboveMostNow(t *testing.T) {
 }
 
 func TestSafeArgumentsAreNotWritten(t *testing.T) {
-	profiles := slices.Concat(smallProfiles(), drawnProfiles(60, 400))
-	for _, f := range profileFaults() {
-		p := threePieces()
-		f.spoil(&p)
-		profiles = append(profiles, p)
-	}
-	for _, p := range profiles {
-		given := withSpare(p)
-		before := whole(given)
+	for _, p := range alsoSpoilt(slices.Concat(smallProfiles(), drawnProfiles(60, 400))) {
 		all := []int{5, 10000, -1, 3, 3, 99, 77, 77}
-		wants := all[:6]
-		answers := func() []any {
-			return []any{impl.Safe(given, 3, 9), impl.MostNow(given, 3), impl.Curve(given, 1+max(given.End, 0)/50), impl.Watch(given, 0, 0, wants)}
-		}
-		first := answers()
-		if again := answers(); !reflect.DeepEqual(first, again) {
-			t.Errorf("%v: %v, then %v", p, first, again)
-		}
-		if after := whole(given); !reflect.DeepEqual(before, after) {
-			t.Errorf("%v became %v", before, after)
-		}
+		checkUnwritten(t, p, func(p impl.Profile) []any {
+			return []any{impl.Safe(p, 3, 9), impl.MostNow(p, 3), impl.Curve(p, 1+max(p.End, 0)/50), impl.Watch(p, 0, 0, all[:6])}
+		})
 		if !slices.Equal(all, []int{5, 10000, -1, 3, 3, 99, 77, 77}) {
 			t.Errorf("the wants became %v", all)
 		}
